@@ -462,7 +462,7 @@ func TestP18_2Long(t *testing.T) {
 	}
 }
 
-// TestP18_2TypeNull has parameters of TypeNull that are Null, Long, or neither, the values ahead of them being there or not.
+// TestP18_2TypeNull has parameters of TypeNull that are Null, Long, or neither, with something behind them and with nothing.
 func TestP18_2TypeNull(t *testing.T) {
 	tinyType := typed(api.TypeTiny)
 	for _, of := range list(typed(api.TypeNull), unsigned(api.TypeNull)) {
@@ -475,9 +475,7 @@ func TestP18_2TypeNull(t *testing.T) {
 		for _, behind := range [][]byte{nil, {0}, {5}, {5, 0}, {251}} {
 			wantError(t, join([]byte{0, 0}, behind), 1, list(of), nil, api.ErrBad)
 			wantError(t, join([]byte{0, 1}, two, behind), 1, nil, nil, api.ErrBad)
-			wantError(t, join([]byte{0, 0}, behind), 2, list(tinyType, of), nil, api.ErrBad)
 			wantError(t, join([]byte{0, 0}, behind), 2, list(of, tinyType), nil, api.ErrBad)
-			wantError(t, join([]byte{0, 1, 1, 0}, two, behind), 2, nil, nil, api.ErrBad)
 			wantError(t, join([]byte{0, 1}, two, []byte{1, 0}, behind), 2, nil, nil, api.ErrBad)
 		}
 		wantError(t, join([]byte{0, 1}, two), 2, nil, nil, api.ErrShort)
@@ -487,9 +485,53 @@ func TestP18_2TypeNull(t *testing.T) {
 	}
 }
 
-// TestP18_2FromLeft has wrong values ahead of the place where b ends, and what would be one behind it.
+// TestP18_2TypeNullBehind has one of TypeNull that is neither Null nor Long behind values of each kind: it is told where it is reached, so that b which ends within a value ahead of it is ErrShort.
+func TestP18_2TypeNullBehind(t *testing.T) {
+	for _, of := range list(typed(api.TypeNull), unsigned(api.TypeNull)) {
+		for _, x := range samples() {
+			wantToldAt(t, list(x.p, null(of)), 1, x.put)
+			wantToldAt(t, list(x.p, null(of), x.p), 1, x.put)
+			wantToldAt(t, list(x.p, x.p, null(of)), 2, join(x.put, x.put))
+			wantToldAt(t, list(x.p, null(x.p.Typed), long(of), null(of), null(of)), 3, x.put)
+		}
+		for n := 1; n <= 17; n++ {
+			wantToldAt(t, append(times(tiny(7), n), null(of)), n, times(byte(7), n))
+			wantToldAt(t, append(times(null(of), n), null(of), tiny(7)), n, nil)
+			wantToldAt(t, append(times(long(of), n), null(of), tiny(7)), n, nil)
+		}
+	}
+}
+
+// wantToldAt asks that a list whose Null at a place has no bit is ErrBad, and ErrShort wherever b ends within the values ahead of that place, which are put.
+func wantToldAt(t *testing.T, l []api.Param, at int, put []byte) {
+	t.Helper()
+	n, types, is := len(l), typesOf(l), longOf(l)
+	for _, bound := range both {
+		b, e := param.Append(nil, l, bound)
+		if e != api.OK {
+			t.Fatalf("Append of %s: %v", brief(l), e)
+		}
+		b[at/8] &^= 1 << (at % 8)
+		ahead := (n+7)/8 + 1
+		if bound {
+			ahead += 2 * n
+		}
+		for end := range len(b) + 1 {
+			want := api.ErrShort
+			if end >= ahead+len(put) {
+				want = api.ErrBad
+			}
+			wantError(t, b[:end], n, types, is, want)
+		}
+		for _, x := range []byte{0, 1, 251} {
+			wantError(t, join(b, []byte{x}), n, types, is, api.ErrBad)
+		}
+	}
+}
+
+// TestP18_2FromLeft has wrong values, and such that can't be, ahead of the place where b ends, and what would be one behind it.
 func TestP18_2FromLeft(t *testing.T) {
-	day, number, blob := typed(api.TypeDate), typed(api.TypeLong), typed(api.TypeBlob)
+	day, number, blob, none := typed(api.TypeDate), typed(api.TypeLong), typed(api.TypeBlob), typed(api.TypeNull)
 	for _, x := range []struct {
 		types []api.Typed
 		put   []byte
@@ -507,6 +549,13 @@ func TestP18_2FromLeft(t *testing.T) {
 		{list(number, day), []byte{1, 0, 0, 0}, api.ErrShort},
 		{list(number, day), []byte{1, 0, 0, 0, 0, 5}, api.ErrBad},
 		{list(number, day), nil, api.ErrShort},
+		{list(number, none), []byte{7, 0, 0}, api.ErrShort},
+		{list(number, none), []byte{7, 0, 0, 0}, api.ErrBad},
+		{list(day, none), []byte{4, 234, 7, 13}, api.ErrShort},
+		{list(day, none), []byte{5}, api.ErrBad},
+		{list(blob, none), []byte{252, 1}, api.ErrShort},
+		{list(none, number), nil, api.ErrBad},
+		{list(none, day), []byte{4, 1}, api.ErrBad},
 	} {
 		told := join(typeBytes(x.types[0]), typeBytes(x.types[1]))
 		wantError(t, join([]byte{0, 0}, x.put), 2, x.types, nil, x.want)
@@ -625,7 +674,7 @@ func TestDrawn(t *testing.T) {
 
 // TestT6AnyBytes has all short bytes of few values, of many kinds of types and Long ones: every call ends, and answers as the chapter reads.
 func TestT6AnyBytes(t *testing.T) {
-	kinds := [][]api.Typed{nil, list(typed(api.TypeTiny)), list(typed(api.TypeNull), typed(api.TypeDate)), list(typed(api.TypeBlob), typed(14)), list(typed(14)), times(unsigned(api.TypeTiny), 9)}
+	kinds := [][]api.Typed{nil, list(typed(api.TypeTiny)), list(typed(api.TypeNull), typed(api.TypeDate)), list(typed(api.TypeShort), typed(api.TypeNull), typed(api.TypeTiny)), list(typed(api.TypeBlob), typed(14)), list(typed(14)), times(unsigned(api.TypeTiny), 9)}
 	longs := [][]bool{nil, {true}, {false, true}}
 	var grow func(b []byte)
 	grow = func(b []byte) {

@@ -150,13 +150,11 @@ func plainParams(b []byte, types []api.Typed, is []bool, bits string) ([]api.Par
 			valued = append(valued, i)
 		}
 	}
+	at := 0
 	for _, i := range valued {
 		if types[i].Type == 6 {
 			return nil, api.ErrBad
 		}
-	}
-	at := 0
-	for _, i := range valued {
 		v, size, e := value.Read(b[at:], types[i])
 		if e != api.OK {
 			return nil, e

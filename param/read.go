@@ -52,18 +52,13 @@ func isUnknown(t api.Typed) bool {
 
 // readParams answers a parameter of each type, with the values of those that have one in b, if that is all of b.
 func readParams(b []byte, types []api.Typed, m marks) (l []api.Param, e api.Errno) {
-	if lacksNull(types, m) {
-		return nil, api.ErrBad
-	}
 	for i, t := range types {
 		p := api.Param{Typed: t, Long: m.isLong(i)}
 		if !p.Long && !m.isNull(i) {
-			size := 0
-			p.Value, size, e = value.Read(b, t)
+			p.Value, b, e = readValue(b, t)
 			if e != api.OK {
 				return nil, e
 			}
-			b = b[size:]
 		}
 		l = append(l, p)
 	}
@@ -74,14 +69,16 @@ func readParams(b []byte, types []api.Typed, m marks) (l []api.Param, e api.Errn
 	return l, api.OK
 }
 
-// lacksNull tells whether a parameter of TypeNull is neither Null nor Long: it would have a value that it can't have.
-func lacksNull(types []api.Typed, m marks) bool {
-	for i, t := range types {
-		if t.Type == api.TypeNull && !m.isNull(i) && !m.isLong(i) {
-			return true
-		}
+// readValue answers the value at the beginning of b, and what is left behind it. As a parameter of TypeNull can have none, it is refused here, where it is reached: what is wrong ahead of it counts first.
+func readValue(b []byte, t api.Typed) (v api.Value, left []byte, e api.Errno) {
+	if t.Type == api.TypeNull {
+		return api.Value{}, nil, api.ErrBad
 	}
-	return false
+	v, size, e := value.Read(b, t)
+	if e != api.OK {
+		return api.Value{}, nil, e
+	}
+	return v, b[size:], api.OK
 }
 
 // ended answers ErrBad, if bytes are left.
